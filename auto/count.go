@@ -17,19 +17,22 @@ type whole []uint64
 
 // plus adds another number so many times. It writes into what it is called on, as append does.
 func (w whole) plus(other whole, times uint64) whole {
+	for len(w) < len(other) {
+		w = append(w, 0)
+	}
 	var carry uint64
-	for i := 0; i < len(other) || carry > 0; i++ {
+	for i, x := range other {
+		high, low := bits.Mul64(x, times)
+		low, c := bits.Add64(low, carry, 0)
+		carry = high + c
+		w[i], c = bits.Add64(w[i], low, 0)
+		carry += c
+	}
+	for i := len(other); carry > 0; i++ {
 		if i == len(w) {
 			w = append(w, 0)
 		}
-		high, low := uint64(0), uint64(0)
-		if i < len(other) {
-			high, low = bits.Mul64(other[i], times)
-		}
-		var c1, c2 uint64
-		low, c1 = bits.Add64(low, carry, 0)
-		w[i], c2 = bits.Add64(w[i], low, 0)
-		carry = high + c1 + c2
+		w[i], carry = bits.Add64(w[i], carry, 0)
 	}
 	return w
 }
@@ -85,8 +88,18 @@ func widthsOf(a api.Auto) [][]width {
 	return all
 }
 
+// byOneRule gives the least automaton that takes what another one takes, all by one rule: with fewer states less is to be counted.
+func byOneRule(a api.Auto) api.Auto {
+	var out api.Auto
+	for _, s := range a.States {
+		out.States = append(out.States, api.State{Rule: min(s.Rule, 0), Moves: s.Moves})
+	}
+	return least(out)
+}
+
 // countTaken counts, point by point, how many lists lead to each state.
 func countTaken(a api.Auto, n int) whole {
+	a = byOneRule(a)
 	if len(a.States) == 0 {
 		return nil
 	}

@@ -67,7 +67,7 @@ func TestCountOfManyAutomata(t *testing.T) {
 
 // P36: as many states as there can be, each leading to each.
 func TestCountOfManyStates(t *testing.T) {
-	const most, n = api.MaxStates, 40
+	const most, n = api.MaxStates, 60
 	var a api.Auto
 	for range most {
 		s := api.State{Rule: 1}
@@ -79,6 +79,15 @@ func TestCountOfManyStates(t *testing.T) {
 	want := new(big.Int).Exp(big.NewInt(2000*most), big.NewInt(n), nil).String()
 	if got := auto.Count(a, n); got != want {
 		t.Errorf("%s, want %s", got, want)
+	}
+	// With one state that is no end, each state is told apart by the points that lead there.
+	for i := range most {
+		a.States[i].Moves[0].To, a.States[i].Moves[i].To = i, 0
+	}
+	a.States[0].Rule = -1
+	rest := new(big.Int).Sub(new(big.Int).Exp(big.NewInt(2000*most), big.NewInt(n), nil), new(big.Int).Mul(big.NewInt(2000), new(big.Int).Exp(big.NewInt(2000*most), big.NewInt(n-1), nil)))
+	if got := auto.Count(a, n); got != rest.String() {
+		t.Errorf("%s, want %s", got, rest)
 	}
 }
 

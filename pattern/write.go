@@ -4,7 +4,6 @@ import (
 	"slices"
 	"strconv"
 	"strings"
-	"unicode"
 
 	"grammarsmith/api"
 	"grammarsmith/points"
@@ -144,11 +143,16 @@ func (w *writer) items(set []api.Range) string {
 // point writes a point where some signs have a meaning. A ` is never written as itself: so the text may stand between two of them in a grammar's text.
 func (w *writer) point(p int, signs string) string {
 	c := rune(p)
-	if unicode.IsPrint(c) && c != '`' && !strings.ContainsRune(signs, c) {
+	if plainToSee(c) && c != '`' && !strings.ContainsRune(signs, c) {
 		return string(c)
 	}
 	if sign, known := w.signs[p]; known {
 		return `\` + string(sign)
 	}
 	return `\u{` + strconv.FormatInt(int64(p), 16) + "}"
+}
+
+// plainToSee says of the letters and signs of ASCII and of the Latin letters behind it that they can be read as they stand; all others are told by their numbers. (0xAD is a hyphen that is not always shown. Of all code points only a large table could say it.)
+func plainToSee(c rune) bool {
+	return c >= ' ' && c <= '~' || c >= 0xA1 && c <= 0x24F && c != 0xAD
 }

@@ -99,8 +99,40 @@ func TestWriteOfEachPoint(t *testing.T) {
 	for _, p := range []int{0x2028, 0xD7FF, 0xD800, 0xDBFF, 0xDC00, 0xDFFF, 0xE000, 0xFEFF, 0xFFFD, 0xFFFE, 0xFFFF, 0x10000, 0x1D11E, api.MaxPoint - 4, api.MaxPoint - 1, api.MaxPoint} {
 		check(p)
 	}
-	for p := 0; p <= api.MaxPoint; p += 97 {
-		checkBack(t, "one point", one(p))
+}
+
+// P23: every point there is, outside of brackets and within them, with the points beside it and without.
+func TestWriteOfEveryPoint(t *testing.T) {
+	for p := 0; p <= api.MaxPoint; {
+		row := cat()
+		for ; len(row.Kids) < api.MaxWeight-1 && p <= api.MaxPoint; p++ {
+			row.Kids = append(row.Kids, one(p))
+		}
+		checkBack(t, "points in a row", row)
+	}
+	for p := 0; p <= api.MaxPoint; p += 3000 {
+		for first := p; first < p+3; first++ {
+			singles, spans := setOf(), setOf()
+			for q := first; q < p+3000 && q+1 <= api.MaxPoint; q += 3 {
+				singles.Set = append(singles.Set, api.Range{Lo: q, Hi: q})
+				spans.Set = append(spans.Set, api.Range{Lo: q, Hi: q + 1})
+			}
+			checkBack(t, "points apart", singles)
+			checkBack(t, "pairs of points", spans)
+		}
+	}
+	checkBack(t, "the last point apart", setOf(api.Range{Lo: 0, Hi: 0}, api.Range{Lo: api.MaxPoint, Hi: api.MaxPoint}))
+}
+
+// What is plain to see is written as it is, and nothing else.
+func TestWriteOfWhatIsPlainToSee(t *testing.T) {
+	for text, p := range map[string]int{
+		"a": 'a', " ": ' ', "é": 0xE9, "ß": 0xDF, "ſ": 0x17F, `\u{7f}`: 0x7F, `\u{a0}`: 0xA0, `\u{ad}`: 0xAD, `\u{300}`: 0x300, `\u{200b}`: 0x200B, `\u{d800}`: 0xD800, `\u{fffd}`: 0xFFFD, `\u{10ffff}`: api.MaxPoint,
+		`\n`: 10, `\r`: 13, `\t`: 9, `\u{0}`: 0, `\u{60}`: '`', `\*`: '*', "-": '-',
+	} {
+		if got := checkBack(t, text, one(p)); got != text {
+			t.Errorf("%x is written as %q, want %q", p, got, text)
+		}
 	}
 }
 
