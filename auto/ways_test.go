@@ -83,9 +83,23 @@ func TestWaysOfRules(t *testing.T) {
 	}
 }
 
-// P33: so it is with too many states.
+// P33: so it is with just MaxStates states.
+func TestWaysOfMaxStates(t *testing.T) {
+	made, x := piecesOf(t, "ccc("+manyStates+")")
+	if len(made[0].auto.States) != api.MaxStates {
+		t.Fatalf("%d states", len(made[0].auto.States))
+	}
+	for _, n := range x.netsOf(made[0]) {
+		checkWays(t, "MaxStates", n, answer{sure: true, small: true, auto: made[0].auto})
+	}
+}
+
+// manyStates has 497 states.
+const manyStates = "[ab]*a[ab]{7}|y[ab]*a[ab]{6}|z[ab]*a[ab]{5}|u[ab]*a[ab]{4}|v[ab]*a[ab]{3}"
+
+// P33: so it is with too many states, also with one too many.
 func TestWaysOfTooManyStates(t *testing.T) {
-	for _, s := range []string{"[ab]*a[ab]{8}", "[ab]*a[ab]{7}c[ab]*b[ab]{7}", "(a{19})*&(a{27})*", "~(.*a.{5})c~(.*b.{5})"} {
+	for _, s := range []string{"cccc(" + manyStates + ")", "[ab]*a[ab]{8}", "[ab]*a[ab]{7}c[ab]*b[ab]{7}", "(a{19})*&(a{27})*", "~(.*a.{5})c~(.*b.{5})"} {
 		p, err := pattern.Read(s)
 		if err != nil {
 			t.Fatal(err)
