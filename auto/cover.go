@@ -3,7 +3,7 @@ package auto
 // maxCovered is how many knots a net has at most whose covers are found: each is held against each.
 const maxCovered = 1000
 
-// findCovers finds which knots cover which: one covers another if from it, too, each text leads to an end that leads to one from the other, to that of the same rule or of an earlier one. Those are found that can follow step by step.
+// findCovers finds which knots cover which: one covers another if from it, too, each text leads to the end that does from the other. Those are found that can follow step by step.
 func (n *net) findCovers() {
 	if n.covers != nil || len(n.knots) > maxCovered {
 		return
@@ -12,7 +12,7 @@ func (n *net) findCovers() {
 	for p := range n.covers {
 		n.covers[p] = make([]bool, len(n.knots))
 		for q := range n.covers[p] {
-			n.covers[p][q] = n.counts(p) && n.counts(q) && (p >= n.ends || q <= p)
+			n.covers[p][q] = n.counts(p) && n.counts(q) && (p != endKnot || q == endKnot)
 		}
 	}
 	for changed := true; changed; {

@@ -39,48 +39,24 @@ func (t *trial) addEnds(text []int) {
 	t.renew()
 }
 
-// wrongText gives a text that an automaton takes by another rule than a net does; nil, if there is none. It looks first at each way through the net alone: soon that finds what leads to an end, and is not taken so. What leads to no end is only seen where all ways to that end are gone at once.
+// wrongText gives a text that an automaton takes and a net does not, or the other way round; nil, if there is none. It looks first at each way through the net alone: soon that finds what leads to the end, and is not taken so. What does not lead to it is only seen where all ways are gone at once.
 func wrongText(n *net, a api.Auto, room int) ([]int, bool) {
+	empty := n.emptyTest()
 	h := newHunt(n, a, room)
 	h.meet = h.eachKnot(map[pair]int{})
-	h.wrong = func(state int, set []int) bool { return set[0] < n.ends && !n.mayEnd(set[0], ruleOf(a, state)) }
+	h.wrong = func(state int, set []int) bool { return set[0] == endKnot && n.says(set, empty) != ruleOf(a, state) }
 	text, sure := h.run(n.first())
-	for rule := 0; rule < n.ends && text == nil && sure; rule++ {
-		if n.turned || takesBy(a, rule) {
-			text, sure = wrongByRule(n, a, rule, h.room)
-		}
+	if text != nil || !sure || !n.turned && !takesSome(a) {
+		return text, sure
 	}
-	return text, sure
-}
-
-// mayEnd says whether a text may lead to an end that is taken by a rule.
-func (n *net) mayEnd(end, rule int) bool {
-	if n.turned {
-		return rule < 0
-	}
-	return rule >= 0 && rule <= end
-}
-
-func takesBy(a api.Auto, rule int) bool {
-	return slices.ContainsFunc(a.States, func(s api.State) bool { return s.Rule == rule })
-}
-
-// wrongByRule looks only at the knots that lead to the end of the rule.
-func wrongByRule(n *net, a api.Auto, rule, room int) ([]int, bool) {
-	empty := n.testOf(n.allEnds())
-	h := newHunt(n, a, room)
+	h = newHunt(n, a, h.room)
 	h.meet = h.leastSets(make([][][]int, len(a.States)+1))
-	h.wrong = func(state int, set []int) bool {
-		taken := ruleOf(a, state)
-		return (n.turned || taken == rule) && n.says(set, empty) != taken
-	}
-	var first []int
-	for _, k := range n.first() {
-		if n.knots[k].rule == rule {
-			first = append(first, k)
-		}
-	}
-	return h.run(first)
+	h.wrong = func(state int, set []int) bool { return n.says(set, empty) != ruleOf(a, state) }
+	return h.run(n.first())
+}
+
+func takesSome(a api.Auto) bool {
+	return slices.ContainsFunc(a.States, func(s api.State) bool { return s.Rule >= 0 })
 }
 
 // hunt goes through a net and an automaton side by side.

@@ -6,35 +6,28 @@ import (
 	"grammarsmith/api"
 )
 
-// net is several automata with gates between them. A text leads to a set of its knots at once. The first knots are its ends, one for each rule; the next one is the gate where it begins.
+// The knots of a net that are always there: its end, and the gate where it begins.
+const (
+	endKnot = iota
+	firstGate
+)
+
+// net is several automata with gates between them. A text leads to a set of its knots at once.
 type net struct {
 	knots  []knot
-	ends   int
-	turned bool     // it takes what leads to no end
-	all    [][]int  // of each knot: the knots to which a text leads that leads to it; only ends and knots with moves
+	turned bool     // it takes what does not lead to the end
+	all    [][]int  // of each knot: the knots to which a text leads that leads to it; only the end and knots with moves
 	covers [][]bool // of each knot: which others cover it; nil, if that was not found out
 }
 
-// knot is a state of an automaton; or a gate or an end, which have no moves.
+// knot is a state of an automaton; or a gate or the end, which have no moves.
 type knot struct {
 	moves []api.Move
 	also  []int // the knots to which each text leads, too, that leads to this one
-	rule  int   // that of the end to which it leads
 }
 
-// newNet has an end for each of so many rules.
-func newNet(rules int) *net {
-	n := &net{ends: rules}
-	for rule := range rules {
-		n.knots = append(n.knots, knot{rule: rule})
-	}
-	n.gate()
-	return n
-}
-
-// begin is the gate where the net begins.
-func (n *net) begin() int {
-	return n.ends
+func newNet() *net {
+	return &net{knots: []knot{endKnot: {}, firstGate: {}}}
 }
 
 func (n *net) gate() int {
@@ -90,7 +83,7 @@ func (n *net) putAuto(a api.Auto, from, to int) {
 		n.lead(from, first)
 	}
 	for i, s := range a.States {
-		k := knot{rule: n.knots[to].rule}
+		var k knot
 		for _, m := range s.Moves {
 			k.moves = append(k.moves, api.Move{Lo: m.Lo, Hi: m.Hi, To: first + m.To})
 		}
@@ -103,25 +96,16 @@ func (n *net) putAuto(a api.Auto, from, to int) {
 
 // together takes what the kids of a piece are, put together.
 func together(p *piece) *net {
-	n := newNet(1)
-	n.put(p, n.begin(), 0)
+	n := newNet()
+	n.put(p, firstGate, endKnot)
 	return n.ready()
 }
 
 // either takes a text of one of the automata.
 func either(l []api.Auto) *net {
-	n := newNet(1)
+	n := newNet()
 	for _, a := range l {
-		n.putAuto(a, n.begin(), 0)
-	}
-	return n.ready()
-}
-
-// ruled takes a text of one of the automata, by the number of the first one.
-func ruled(l []api.Auto) *net {
-	n := newNet(len(l))
-	for i, a := range l {
-		n.putAuto(a, n.begin(), i)
+		n.putAuto(a, firstGate, endKnot)
 	}
 	return n.ready()
 }
@@ -148,15 +132,15 @@ func (n *net) ready() *net {
 
 // counts says whether a knot tells anything: gates do not.
 func (n *net) counts(k int) bool {
-	return k < n.ends || len(n.knots[k].moves) > 0
+	return k == endKnot || len(n.knots[k].moves) > 0
 }
 
 // first is the set of knots to which the empty text leads.
 func (n *net) first() []int {
-	return n.pruned(n.all[n.begin()])
+	return n.pruned(n.all[firstGate])
 }
 
-// testOf gives a set of knots as a test: which of all knots are in it. The test of a text is the knots from which it leads to an end.
+// testOf gives a set of knots as a test: which of all knots are in it. The test of a text is the knots from which it leads to the end.
 func (n *net) testOf(set []int) []bool {
 	test := make([]bool, len(n.knots))
 	for _, k := range set {
@@ -165,27 +149,18 @@ func (n *net) testOf(set []int) []bool {
 	return test
 }
 
-// allEnds is the set of the test of the empty text.
-func (n *net) allEnds() []int {
-	var set []int
-	for i := range n.ends {
-		set = append(set, i)
-	}
-	return set
+// emptyTest is the test of the empty text.
+func (n *net) emptyTest() []bool {
+	return n.testOf([]int{endKnot})
 }
 
-// says gives the rule by which the text of a test is taken from a set of knots on.
+// says gives the rule by which the text of a test is taken from a set of knots on: 0, or -1 if it is not taken.
 func (n *net) says(set []int, test []bool) int {
-	least := -1
-	for _, k := range set {
-		if rule := n.knots[k].rule; test[k] && (least < 0 || rule < least) {
-			least = rule
-		}
+	leads := slices.ContainsFunc(set, func(k int) bool { return test[k] })
+	if leads != n.turned {
+		return 0
 	}
-	if n.turned {
-		return -1 - least
-	}
-	return least
+	return -1
 }
 
 // onward gives, for the stretches of points by which a set of knots leads on, the sets to which it leads. It answers how many moves it looked at.

@@ -179,3 +179,48 @@ func TestRulesWithManyStates(t *testing.T) {
 		t.Errorf("taken by %d", got)
 	}
 }
+
+func checkFit(t *testing.T, name string, l []*api.Re, want int) {
+	t.Helper()
+	a, count := auto.Fit(l)
+	if count != want {
+		t.Fatalf("%s: %d fit, want %d", name, count, want)
+	}
+	if b, err := auto.Rules(l[:count]); err != nil || !same(a, b) {
+		t.Errorf("%s: %v, %v", name, a, err)
+	}
+}
+
+// Fit gives what Rules gives of the patterns up to the first of which it gives an error.
+func TestFit(t *testing.T) {
+	large := []string{"[ab]*a[ab]{7}", "y[ab]*a[ab]{6}", "z[ab]*a[ab]{5}", "u[ab]*a[ab]{4}", "v[ab]*a[ab]{3}"}
+	with := func(more ...string) []*api.Re { return readAll(t, append(slices.Clone(large), more...)...) }
+	checkFit(t, "none", nil, 0)
+	checkFit(t, "some", readAll(t, "a", "[]", "a", "b*", ""), 5)
+	checkFit(t, "MaxStates", with("ccc"), 6)
+	checkFit(t, "one state more", with("cccc"), 5)
+	checkFit(t, "one state more, and others", with("cc", "ccc", "d", "e", "cc"), 7)
+	checkFit(t, "far too many", readAll(t, "x", "[a-h]*[abef][a-h]{7}", "[a-h]*[aceg][a-h]{7}", "[a-h]*[abcd][a-h]{7}", "y"), 2)
+	checkFit(t, "all by the first rule", readAll(t, "~[]", "[a-h]*[abef][a-h]{7}", "[a-h]*[aceg][a-h]{7}", "[a-h]*[abcd][a-h]{7}"), 4)
+	checkFit(t, "nil", []*api.Re{nil}, 0)
+	checkFit(t, "a wrong one", append(readAll(t, "a", "b"), nil, read(t, "c"), nil), 2)
+	checkFit(t, "a pattern that is too large", readAll(t, "a", "b", "c", "[ab]*a[ab]{8}", "d"), 3)
+	checkFit(t, "a wrong one behind too many states", append(with("cccc"), nil), 5)
+	checkFit(t, "MaxRules", named(t, api.MaxRules), api.MaxRules)
+	checkFit(t, "more than MaxRules", named(t, api.MaxRules+7), api.MaxRules)
+}
+
+// P1, P34: many rules that are hard together are settled soon, those that have too many states too.
+func TestRulesThatAreHard(t *testing.T) {
+	var hard, covered []string
+	for i := range 100 {
+		letters, own := string([]byte{byte('a' + i%8), byte('a' + (i*3+1)%8)}), strconv.FormatInt(int64(0x1000+i), 16)
+		hard = append(hard, "[a-h]*["+letters+"][a-h]{7}\\u{"+own+"}")
+		covered = append(covered, "[a-h]*["+letters+"][a-h]{7}|y\\u{"+own+"}")
+	}
+	checkFault(t, "hard", readAll(t, hard...), api.ErrBound, len(hard))
+	a, err := auto.Rules(readAll(t, append([]string{"[a-h]+"}, covered...)...))
+	if err != nil || len(a.States) != 103 || auto.Run(a, "abcdefgh") != 0 || auto.Run(a, "y\u1007") != 8 {
+		t.Errorf("%v, %d states", err, len(a.States))
+	}
+}

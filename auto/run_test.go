@@ -1,6 +1,7 @@
 package auto_test
 
 import (
+	"math"
 	"strings"
 	"testing"
 
@@ -48,5 +49,28 @@ func TestRunOfManyAutomata(t *testing.T) {
 				t.Fatalf("Run of %q is %d, want %d: %v", s, got, want, a)
 			}
 		}
+	}
+}
+
+// Step goes where Run goes; what is no state leads nowhere.
+func TestStep(t *testing.T) {
+	d := &dice{seed: 9}
+	for range 200 {
+		a := d.automaton(5, 2)
+		for state := range a.States {
+			for _, p := range append(edges(a), 'a', 'b', -1, api.MaxPoint, api.MaxPoint+1) {
+				if got, want := auto.Step(a, state, p), stepFrom(a, state, p); got != want {
+					t.Fatalf("from %d by %d to %d, want %d: %v", state, p, got, want, a)
+				}
+			}
+		}
+		for _, state := range []int{-1, -2, len(a.States), math.MaxInt, math.MinInt} {
+			if got := auto.Step(a, state, 'a'); got != -1 {
+				t.Fatalf("from %d to %d", state, got)
+			}
+		}
+	}
+	if got := auto.Step(api.Auto{}, 0, 'a'); got != -1 {
+		t.Errorf("without states: %d", got)
 	}
 }

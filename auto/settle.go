@@ -74,7 +74,7 @@ func (b *book) number(set []int) int {
 
 // fromFront makes a state of each set of knots to which a text leads.
 func fromFront(n *net, room int) answer {
-	b, empty := newBook(), n.testOf(n.allEnds())
+	b, empty := newBook(), n.emptyTest()
 	b.number(n.first())
 	var a api.Auto
 	for i := 0; i < len(b.sets); i++ {
@@ -93,7 +93,7 @@ func fromFront(n *net, room int) answer {
 // fromBack finds the tests of all texts: what a set of knots says to all of them tells it apart from the others.
 func fromBack(n *net, room int) answer {
 	b := newBook()
-	b.number(n.allEnds())
+	b.number([]int{endKnot})
 	for i := 0; i < len(b.sets); i++ {
 		room -= testBurden + n.backward(n.testOf(b.sets[i]), func(_, _ int, set []int) { b.number(set) })
 		if room < 0 {

@@ -15,7 +15,7 @@ type trial struct {
 
 // newTrial begins with the test of the empty text.
 func newTrial(n *net) *trial {
-	t := &trial{net: n, tests: [][]bool{n.testOf(n.allEnds())}, rows: newBook()}
+	t := &trial{net: n, tests: [][]bool{n.emptyTest()}, rows: newBook()}
 	t.row(n.first())
 	t.renew()
 	return t

@@ -73,16 +73,6 @@ func TestWaysOfPatterns(t *testing.T) {
 	}
 }
 
-// P34: so it is with several rules.
-func TestWaysOfRules(t *testing.T) {
-	l := sources()
-	for i := 0; i+4 <= len(l); i += 7 {
-		made, _ := piecesOf(t, l[i:i+4]...)
-		n := ruled(autosOf(made))
-		checkWays(t, l[i], n, fromFront(n, 1<<40))
-	}
-}
-
 // P33: so it is with just MaxStates states.
 func TestWaysOfMaxStates(t *testing.T) {
 	made, x := piecesOf(t, "ccc("+manyStates+")")
