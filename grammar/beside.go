@@ -1,73 +1,108 @@
 package grammar
 
-import "grammarsmith/api"
+import (
+	"grammarsmith/api"
+	"grammarsmith/marks"
+)
 
-// opening is how the sentences of a row of symbols begin: with which terminals, and whether one of them is empty.
-type opening struct {
-	terms marks
-	empty bool
+// Opening is how the sentences of a row of symbols begin: with which terminals, and whether one of them is empty.
+type Opening struct {
+	Terms marks.Set
+	Empty bool
 }
 
-// putAhead gives the opening of a row that has one symbol more at its front.
-func (o opening) putAhead(symbol int, first []marks, empty []bool) opening {
-	n, named := nameOf(symbol)
-	switch {
-	case !named:
-		return opening{terms: marks{}.with(symbol)}
-	case empty[n]:
-		return opening{terms: first[n].join(o.terms), empty: o.empty}
+// Then: with what the row begins where one of these looks stands behind it.
+func (o Opening) Then(looks marks.Set) marks.Set {
+	if o.Empty {
+		return o.Terms.Join(looks)
 	}
-	return opening{terms: first[n]}
+	return o.Terms
 }
 
-func firsts(g api.Grammar) []marks {
-	g = whole(g)
+// putAhead gives the opening of a row that has one symbol more at its front. Where the row has no sentence, so that it begins with nothing at all, the longer one has none either.
+func (o Opening) putAhead(symbol int, first []marks.Set, empty []bool) Opening {
+	if o == (Opening{}) {
+		return o
+	}
+	n, named := nameOf(symbol)
+	if !named {
+		return Opening{Terms: marks.Of(symbol)}
+	}
+	ahead := Opening{Terms: first[n], Empty: empty[n]}
+	return Opening{Terms: ahead.Then(o.Terms), Empty: ahead.Empty && o.Empty}
+}
+
+// rowOpenings gives the opening of what stands from each place of a row on, the last one that of nothing.
+func rowOpenings(row []int, first []marks.Set, empty []bool) []Opening {
+	out := make([]Opening, len(row)+1)
+	out[len(row)] = Opening{Empty: true}
+	for i := len(row) - 1; i >= 0; i-- {
+		out[i] = out[i+1].putAhead(row[i], first, empty)
+	}
+	return out
+}
+
+func prodOpenings(g api.Grammar) [][]Opening {
+	first, empty := firsts(g), haveTrees(g, withoutLeaves)
+	out := make([][]Opening, len(g.Prods))
+	for i, p := range g.Prods {
+		out[i] = rowOpenings(p.Right, first, empty)
+	}
+	return out
+}
+
+func firsts(g api.Grammar) []marks.Set {
 	own, empty := ownProds(g), haveTrees(g, withoutLeaves)
-	return least(marks{}, within(g), func(first []marks, n int) marks {
-		var all marks
+	return least(marks.Set{}, within(g), func(first []marks.Set, n int) marks.Set {
+		var all marks.Set
 		for _, p := range own[n] {
-			o := opening{empty: true}
-			for i := len(p.Right) - 1; i >= 0; i-- {
-				o = o.putAhead(p.Right[i], first, empty)
-			}
-			all = all.join(o.terms)
+			all = all.Join(rowOpenings(p.Right, first, empty)[0].Terms)
 		}
 		return all
 	})
 }
 
-func follows(g api.Grammar) []marks {
+func follows(g api.Grammar) []marks.Set {
 	next, hosts := behind(g)
-	return least(marks{}, hosts, func(follow []marks, n int) marks {
+	return least(marks.Set{}, hosts, func(follow []marks.Set, n int) marks.Set {
 		all := next[n]
 		for host := range hosts[n] {
-			all = all.join(follow[host])
+			all = all.Join(follow[host])
 		}
 		return all
 	})
 }
 
 // behind gives what stands behind each name within one production, the end behind Start, and of which names it may stand at the very end, so that what stands behind those stands behind it.
-func behind(g api.Grammar) ([]marks, links) {
-	used, first, empty := usedProds(g), firsts(g), haveTrees(g, withoutLeaves)
-	next, hosts := make([]marks, g.Names), newLinks(g.Names)
+func behind(g api.Grammar) ([]marks.Set, links) {
+	used, openings := usedProds(g), prodOpenings(g)
+	next, hosts := make([]marks.Set, g.Names), newLinks(g.Names)
 	if haveTrees(g, withLeaves)[g.Start] {
-		next[g.Start] = marks{}.with(g.Terms)
+		next[g.Start] = marks.Of(g.Terms)
 	}
 	for i, p := range g.Prods {
 		if !used[i] {
 			continue
 		}
-		rest := opening{empty: true}
-		for k := len(p.Right) - 1; k >= 0; k-- {
-			if n, named := nameOf(p.Right[k]); named {
-				next[n] = next[n].join(rest.terms)
-				if rest.empty {
-					hosts.add(n, p.Left)
-				}
+		for k, s := range p.Right {
+			n, named := nameOf(s)
+			if !named {
+				continue
 			}
-			rest = rest.putAhead(p.Right[k], first, empty)
+			rest := openings[i][k+1]
+			next[n] = next[n].Join(rest.Terms)
+			if rest.Empty {
+				hosts.add(n, p.Left)
+			}
 		}
 	}
 	return next, hosts
+}
+
+func listsOf(all []marks.Set) [][]int {
+	out := make([][]int, len(all))
+	for i, s := range all {
+		out[i] = s.List()
+	}
+	return out
 }

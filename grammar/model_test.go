@@ -5,6 +5,8 @@ import (
 	"testing"
 
 	"grammarsmith/api"
+	"grammarsmith/grammar"
+	"grammarsmith/marks"
 )
 
 // The model answers by sentences: a machine reads them terminal by terminal, and of each name is found from which of its states to which ones the sentences of all its trees lead. Where a node's place matters, a terminal more is put into the trees.
@@ -300,4 +302,61 @@ func TestShortestByModel(t *testing.T) {
 			t.Errorf("%s: %d false, %d true", what, n[0], n[1])
 		}
 	}
+}
+
+// How rests of productions begin, held against the ways of a machine that remembers the first terminal.
+func TestOpeningsByModel(t *testing.T) {
+	d := &dice{seed: 14}
+	kinds := map[string]int{}
+	for range 3000 {
+		g := d.grammar()
+		m := opener(g.Terms)
+		names, got := m.ways(g), grammar.Openings(g)
+		if len(got) != len(g.Prods) {
+			t.Fatalf("%+v: openings of %d productions", g, len(got))
+		}
+		for i, p := range g.Prods {
+			if len(got[i]) != len(p.Right)+1 {
+				t.Fatalf("%+v: %d openings of production %d", g, len(got[i]), i)
+			}
+			for k, o := range got[i] {
+				var want grammar.Opening
+				for state := range m.through(p.Right[k:], 0, names) {
+					if state == 0 {
+						want.Empty = true
+					} else {
+						want.Terms = want.Terms.With(state - 1)
+					}
+				}
+				if o != want {
+					t.Fatalf("%+v: the rest of production %d from %d on: %v, want %v", g, i, k, o, want)
+				}
+				looks := marks.Of(g.Terms)
+				if o.Empty != o.Then(looks).Has(g.Terms) || o.Then(looks).Join(o.Terms) != o.Then(looks) || o.Then(o.Terms) != o.Terms {
+					t.Fatalf("%+v: %v is followed by %v", g, o, o.Then(looks))
+				}
+				kinds[openingKind(o)]++
+			}
+		}
+	}
+	for _, kind := range []string{"none", "empty", "terms", "both"} {
+		if kinds[kind] < 500 {
+			t.Errorf("%s: only %d", kind, kinds[kind])
+		}
+	}
+	if got := grammar.Openings(api.Grammar{Names: -1, Prods: []api.Prod{{}}}); len(got) != 0 {
+		t.Errorf("of a grammar that is not valid: %v", got)
+	}
+}
+
+func openingKind(o grammar.Opening) string {
+	switch {
+	case o == grammar.Opening{}:
+		return "none"
+	case o.Terms == marks.Set{}:
+		return "empty"
+	case o.Empty:
+		return "both"
+	}
+	return "terms"
 }

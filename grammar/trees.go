@@ -4,6 +4,7 @@ import (
 	"slices"
 
 	"grammarsmith/api"
+	"grammarsmith/marks"
 )
 
 // Whether trees may have leaves: those without have the empty sentence.
@@ -90,16 +91,16 @@ func usedProds(g api.Grammar) []bool {
 // loopingNames goes by what stands within a name with all of its sentence.
 func loopingNames(g api.Grammar) []bool {
 	alike := alikeWithin(whole(g))
-	inside := least(marks{}, alike, func(inside []marks, n int) marks {
-		var all marks
+	inside := least(marks.Set{}, alike, func(inside []marks.Set, n int) marks.Set {
+		var all marks.Set
 		for part := range alike[n] {
-			all = all.with(part).join(inside[part])
+			all = all.With(part).Join(inside[part])
 		}
 		return all
 	})
 	out := make([]bool, g.Names)
 	for n := range out {
-		out[n] = inside[n].has(n)
+		out[n] = inside[n].Has(n)
 	}
 	return out
 }
