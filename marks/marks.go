@@ -43,6 +43,14 @@ func (s Set) Join(other Set) Set {
 	return s
 }
 
+// Meet: what is in both.
+func (s Set) Meet(other Set) Set {
+	for i, word := range other {
+		s[i] &= word
+	}
+	return s
+}
+
 // List: the numbers in ascending order.
 func (s Set) List() []int {
 	var out []int

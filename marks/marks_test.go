@@ -41,6 +41,9 @@ func TestSetsAreValues(t *testing.T) {
 	if a.Join(b) != b || b.Join(a) != b || a.Join(marks.Set{}) != a {
 		t.Error("Join")
 	}
+	if a.Meet(b) != a || b.Meet(a) != a || a.Meet(marks.Of(200).With(64)) != marks.Of(200) || a.Meet(marks.Of(64)) != (marks.Set{}) {
+		t.Error("Meet")
+	}
 	if got := (marks.Set{}).List(); len(got) != 0 {
 		t.Errorf("the empty set has %v", got)
 	}
