@@ -5,6 +5,7 @@ import (
 	"strings"
 
 	"grammarsmith/api"
+	"grammarsmith/phrase"
 )
 
 // joined puts texts together.
@@ -32,13 +33,13 @@ func written(e *api.Expr, level int) string {
 func tightness(e *api.Expr) int {
 	switch e.Kind {
 	case api.ELet, api.EIf:
-		return anything
+		return phrase.Anything
 	case api.EOp:
-		return levelOf(e.Text)
+		return phrase.LevelOf(e.Text)
 	case api.ENeg:
-		return negating
+		return phrase.Negating
 	}
-	return unit
+	return phrase.Unit
 }
 
 // bare gives the text of an expression without brackets around it.
@@ -51,13 +52,13 @@ func bare(e *api.Expr) string {
 	case api.EArg:
 		return joined("$", strconv.FormatInt(e.Num, 10))
 	case api.ELet:
-		return joined("let ", e.Text, " = ", written(e.Kids[0], anything), " in ", written(e.Kids[1], anything))
+		return joined("let ", e.Text, " = ", written(e.Kids[0], phrase.Anything), " in ", written(e.Kids[1], phrase.Anything))
 	case api.EIf:
-		return joined("if ", written(e.Kids[0], anything), " then ", written(e.Kids[1], anything), " else ", written(e.Kids[2], anything))
+		return joined("if ", written(e.Kids[0], phrase.Anything), " then ", written(e.Kids[1], phrase.Anything), " else ", written(e.Kids[2], phrase.Anything))
 	case api.EOp:
 		return operation(e)
 	case api.ENeg:
-		return joined("-", written(e.Kids[0], negating))
+		return joined("-", written(e.Kids[0], phrase.Negating))
 	case api.EList:
 		return joined("[", row(e.Kids), "]")
 	case api.ECall:
@@ -68,9 +69,9 @@ func bare(e *api.Expr) string {
 
 // operation: what is as tight may stand on the left without brackets, but for those that compare.
 func operation(e *api.Expr) string {
-	level := levelOf(e.Text)
+	level := phrase.LevelOf(e.Text)
 	left := level
-	if level == comparing {
+	if level == phrase.Comparing {
 		left = level + 1
 	}
 	return joined(written(e.Kids[0], left), " ", e.Text, " ", written(e.Kids[1], level+1))
@@ -83,7 +84,7 @@ func row(kids []*api.Expr) string {
 		if i > 0 {
 			parts = append(parts, ", ")
 		}
-		parts = append(parts, written(k, anything))
+		parts = append(parts, written(k, phrase.Anything))
 	}
 	return joined(parts...)
 }
