@@ -9,14 +9,13 @@ import (
 	"grammarsmith/api"
 )
 
-// maker makes values of expressions beside arguments. An argument is weighed when it is first asked for, and kept in known.
+// maker makes values of expressions beside arguments. An argument without a weight is weighed when it is first asked for.
 type maker struct {
-	args  []api.Value
-	known [api.MaxRight + 1]weighed
+	args []Weighed
 }
 
 // value gives the value of a valid expression within some lets: where its kids are not as asked, nothing.
-func (m *maker) value(e *api.Expr, names []named[weighed]) weighed {
+func (m *maker) value(e *api.Expr, names []named[Weighed]) Weighed {
 	switch e.Kind {
 	case api.ENum:
 		return number(e.Num)
@@ -31,14 +30,14 @@ func (m *maker) value(e *api.Expr, names []named[weighed]) weighed {
 		}
 		return v
 	case api.ELet:
-		return m.value(e.Kids[1], append(names, named[weighed]{e.Text, m.value(e.Kids[0], names)}))
+		return m.value(e.Kids[1], append(names, named[Weighed]{e.Text, m.value(e.Kids[0], names)}))
 	case api.EIf:
 		if m.value(e.Kids[0], names).Num != 0 {
 			return m.value(e.Kids[1], names)
 		}
 		return m.value(e.Kids[2], names)
 	}
-	var kids []weighed
+	var kids []Weighed
 	for _, k := range e.Kids {
 		kids = append(kids, m.value(k, names))
 	}
@@ -53,21 +52,22 @@ func (m *maker) value(e *api.Expr, names []named[weighed]) weighed {
 	return answered(e.Text, kids)
 }
 
-func (m *maker) arg(place int64) weighed {
+func (m *maker) arg(place int64) Weighed {
 	if place > int64(len(m.args)) {
 		return nothing()
 	}
-	if m.known[place].weight == 0 {
-		m.known[place] = weigh(m.args[place-1])
+	arg := &m.args[place-1]
+	if arg.weight == 0 {
+		*arg = Weigh(arg.Value)
 	}
-	return m.known[place]
+	return *arg
 }
 
-func textOf(s string) weighed {
-	return weighed{api.Value{Kind: api.Text, Text: s}, 1 + len(s)}
+func textOf(s string) Weighed {
+	return Weighed{api.Value{Kind: api.Text, Text: s}, 1 + len(s)}
 }
 
-func listed(kids []weighed) weighed {
+func listed(kids []Weighed) Weighed {
 	weight := 1
 	var list []api.Value
 	for _, k := range kids {
@@ -78,7 +78,7 @@ func listed(kids []weighed) weighed {
 }
 
 // calculated gives what an operator makes of two values.
-func calculated(operator string, a, b weighed) weighed {
+func calculated(operator string, a, b Weighed) Weighed {
 	switch {
 	case operator == "==":
 		return truth(same(a.Value, b.Value))
@@ -113,7 +113,7 @@ func counted(operator string, a, b int64) int64 {
 }
 
 // oneBehindTheOther looks at the weight first: what is too heavy is not made at all.
-func oneBehindTheOther(a, b weighed) weighed {
+func oneBehindTheOther(a, b Weighed) Weighed {
 	weight := a.weight + b.weight - 1
 	switch {
 	case weight > maxWeight || a.Kind != b.Kind:
@@ -121,13 +121,13 @@ func oneBehindTheOther(a, b weighed) weighed {
 	case a.Kind == api.Text:
 		return textOf(joined(a.Text, b.Text))
 	case a.Kind == api.List:
-		return weighed{api.Value{Kind: api.List, List: slices.Concat(a.List, b.List)}, weight}
+		return Weighed{api.Value{Kind: api.List, List: slices.Concat(a.List, b.List)}, weight}
 	}
 	return nothing()
 }
 
 // answered gives what a function makes of values.
-func answered(function string, kids []weighed) weighed {
+func answered(function string, kids []Weighed) Weighed {
 	first := kids[0]
 	switch {
 	case function == "len" && first.Kind == api.Text:
@@ -145,13 +145,13 @@ func answered(function string, kids []weighed) weighed {
 	case function == "tag" && first.Kind == api.Node:
 		return textOf(first.Text)
 	case function == "kids" && first.Kind == api.Node:
-		return weighed{api.Value{Kind: api.List, List: first.List}, first.weight - len(first.Text)}
+		return Weighed{api.Value{Kind: api.List, List: first.List}, first.weight - len(first.Text)}
 	}
 	return nothing()
 }
 
 // readNumber: a number that is no more than a - and digits. (The library would take a + as well.)
-func readNumber(s string, other weighed) weighed {
+func readNumber(s string, other Weighed) Weighed {
 	n, err := strconv.ParseInt(s, 10, 64)
 	if err != nil || strings.HasPrefix(s, "+") {
 		return other
@@ -159,9 +159,9 @@ func readNumber(s string, other weighed) weighed {
 	return number(n)
 }
 
-func elementOf(list []api.Value, at int64, other weighed) weighed {
+func elementOf(list []api.Value, at int64, other Weighed) Weighed {
 	if at < 0 || at >= int64(len(list)) {
 		return other
 	}
-	return weigh(list[at])
+	return Weigh(list[at])
 }

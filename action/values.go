@@ -9,22 +9,22 @@ import (
 // maxWeight is how much a value on the way may weigh. It is far beyond the document's limits, and makes that what doubles again and again, or lies in itself, comes to an end.
 const maxWeight = 1 << 22
 
-// weighed is a value with its weight: each value counts one, with those in its list, as often as they stand there, and each byte of a text. Values on the way may share lists: none of them is ever written into.
-type weighed struct {
+// Weighed is a value on the way, with its weight: each value counts one, with those in its list, as often as they stand there, and each byte of a text. Values on the way may share lists: none of them is ever written into.
+type Weighed struct {
 	api.Value
 	weight int
 }
 
 // nothing is what stands for a value where kids are not as asked, or too heavy.
-func nothing() weighed {
-	return weighed{weight: 1}
+func nothing() Weighed {
+	return Weighed{weight: 1}
 }
 
-func number(n int64) weighed {
-	return weighed{api.Value{Kind: api.Int, Num: n}, 1}
+func number(n int64) Weighed {
+	return Weighed{api.Value{Kind: api.Int, Num: n}, 1}
 }
 
-func truth(holds bool) weighed {
+func truth(holds bool) Weighed {
 	if holds {
 		return number(1)
 	}
@@ -32,15 +32,15 @@ func truth(holds bool) weighed {
 }
 
 // bounded gives a value that has a weight, if that is not too much.
-func bounded(v api.Value, weight int) weighed {
+func bounded(v api.Value, weight int) Weighed {
 	if weight > maxWeight {
 		return nothing()
 	}
-	return weighed{v, weight}
+	return Weighed{v, weight}
 }
 
-// weigh goes through a value as far as it must, to see whether it is too heavy.
-func weigh(v api.Value) weighed {
+// Weigh: a value with its weight; the zero value, if it is too heavy. It goes through the value only as far as it must to see that.
+func Weigh(v api.Value) Weighed {
 	weight := 1 + len(v.Text)
 	work := [][]api.Value{v.List}
 	for len(work) > 0 {
@@ -59,9 +59,9 @@ func weigh(v api.Value) weighed {
 	return bounded(v, weight)
 }
 
-// copied gives a value in memory of its own.
-func copied(v api.Value) api.Value {
-	out := []api.Value{v}
+// Own: the value in memory of its own.
+func (w Weighed) Own() api.Value {
+	out := []api.Value{w.Value}
 	work := [][]api.Value{out}
 	for len(work) > 0 {
 		list := work[len(work)-1]

@@ -55,14 +55,10 @@ func (r *Reader) negated() *api.Expr {
 
 func (r *Reader) unit() *api.Expr {
 	switch r.Token.Kind {
-	case Number:
-		return &api.Expr{Kind: api.ENum, Num: r.Step().Num}
-	case Text:
-		return &api.Expr{Kind: api.EText, Text: r.Step().Text}
-	case Place:
-		return &api.Expr{Kind: api.EArg, Num: r.Step().Num}
-	case Name, LongName:
-		return &api.Expr{Kind: api.EName, Text: r.Name()}
+	case Number, Text, Place, Name:
+		return r.Step().Leaf()
+	case LongName:
+		r.Name()
 	case Mark:
 		return r.enclosed()
 	}

@@ -55,3 +55,23 @@ func TestTokens(t *testing.T) {
 		}
 	}
 }
+
+// TokenOf tells what a text is as a whole, and Leaf which expression that is alone.
+func TestTokenOf(t *testing.T) {
+	for s, want := range map[string]api.Expr{"12": {Kind: api.ENum, Num: 12}, "0": {Kind: api.ENum}, `"a\n"`: {Kind: api.EText, Text: "a\n"}, `""`: {Kind: api.EText}, "$20": {Kind: api.EArg, Num: 20}, "x": {Kind: api.EName, Text: "x"}, "skip": {Kind: api.EName, Text: "skip"}} {
+		e := phrase.TokenOf(s).Leaf()
+		if e == nil || e.Kind != want.Kind || e.Num != want.Num || e.Text != want.Text || e.Kids != nil {
+			t.Errorf("%q: %+v", s, e)
+		}
+	}
+	for _, s := range []string{"", " ", "1 ", " 1", "1+2", "01", "$0", "$21", `"`, `"a" "b"`, "x y", "let", "len", "==", "(", "[]", "\xff", "`a`", "9223372036854775808"} {
+		if e := phrase.TokenOf(s).Leaf(); e != nil {
+			t.Errorf("%q: %+v", s, e)
+		}
+	}
+	for s, want := range map[string]int{"": phrase.Mark, "let": phrase.Mark, "<": phrase.Mark, "< ": phrase.None, "x": phrase.Name, "x;": phrase.None, "07": phrase.None} {
+		if got := phrase.TokenOf(s); got.Kind != want {
+			t.Errorf("%q: %+v", s, got)
+		}
+	}
+}

@@ -4,6 +4,8 @@ import (
 	"strconv"
 	"strings"
 	"unicode/utf8"
+
+	"grammarsmith/api"
 )
 
 // What a token is.
@@ -24,6 +26,31 @@ type Token struct {
 	From int
 	Text string
 	Num  int64
+}
+
+// Leaf: the expression that a token is alone; nil, if it is none.
+func (t Token) Leaf() *api.Expr {
+	switch t.Kind {
+	case Number:
+		return &api.Expr{Kind: api.ENum, Num: t.Num}
+	case Text:
+		return &api.Expr{Kind: api.EText, Text: t.Text}
+	case Place:
+		return &api.Expr{Kind: api.EArg, Num: t.Num}
+	case Name:
+		return &api.Expr{Kind: api.EName, Text: t.Text}
+	}
+	return nil
+}
+
+// TokenOf: the token that a text is as a whole; its Kind is None, if the text is none, or more.
+func TokenOf(s string) Token {
+	c := &Cutter{Text: s}
+	t := c.Next()
+	if t.From > 0 || c.At < len(s) {
+		return Token{}
+	}
+	return t
 }
 
 // Cutter cuts an expression's text into tokens, from At on.
