@@ -46,6 +46,16 @@ func (p *parser) step() error {
 	return p.deeds[act.Kind].do(act.To)
 }
 
+// rest gives the tree of all that is read up to the end.
+func (p *parser) rest() (*api.Tree, error) {
+	for !p.accepted {
+		if err := p.step(); err != nil {
+			return nil, err
+		}
+	}
+	return p.top.tree, nil
+}
+
 // ahead gives the next terminal, or Terms at the end, and whether it is one of the grammar's.
 func (p *parser) ahead() (int, bool) {
 	if p.at == len(p.in) {

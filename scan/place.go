@@ -1,31 +1,28 @@
 package scan
 
-import "grammarsmith/api"
-
-// place is a byte of a text, with its line and column.
-type place struct {
-	at, line, col int
+// Place is a byte of a text, with its line and column, and the modes that hold there.
+type Place struct {
+	At, Line, Col int
+	Modes         *Modes
 }
 
-func firstPlace() place {
-	return place{line: 1, col: 1}
+// Beginning: the place at which texts begin.
+func Beginning() Place {
+	return Place{Line: 1, Col: 1, Modes: modesOf(nil)}
 }
 
-// upTo gives the place of a byte further on. It goes over the points of the text, of which the last may end behind that byte.
-func (p place) upTo(s string, at int) place {
-	to := place{at, p.line, p.col}
-	for i, r := range s[p.at:] {
-		if p.at+i >= at {
+// upTo gives the place of a byte further on, where the same modes hold. It goes over the points of the text, of which the last may end behind that byte.
+func (p Place) upTo(s string, at int) Place {
+	to := p
+	to.At = at
+	for i, r := range s[p.At:] {
+		if p.At+i >= at {
 			break
 		}
-		to.col++
+		to.Col++
 		if r == '\n' {
-			to.line, to.col = to.line+1, 1
+			to.Line, to.Col = to.Line+1, 1
 		}
 	}
 	return to
-}
-
-func (p place) token(rule, to int) api.Token {
-	return api.Token{Rule: rule, From: p.at, To: to, Line: p.line, Col: p.col}
 }

@@ -3,7 +3,9 @@ package smith
 import (
 	"grammarsmith/action"
 	"grammarsmith/api"
+	"grammarsmith/copies"
 	"grammarsmith/grammar"
+	"grammarsmith/parse"
 	"grammarsmith/scan"
 	"grammarsmith/table"
 )
@@ -110,7 +112,7 @@ func (b *builder) makeScanner() error {
 	if err != nil {
 		return err
 	}
-	b.tool.scanner, b.tool.rules = scanner, copyOfRules(rules)
+	b.tool.scanner, b.tool.rules = scanner, copies.Rules(rules)
 	return nil
 }
 
@@ -195,7 +197,7 @@ func (b *builder) checkActions() error {
 		if err != nil {
 			return fault(err, i)
 		}
-		b.tool.actions = append(b.tool.actions, copyOfExpr(c.Action))
+		b.tool.actions = append(b.tool.actions, copies.Expr(c.Action))
 	}
 	return nil
 }
@@ -222,5 +224,6 @@ func (b *builder) makeTable() error {
 		return fault(api.ErrConflict, t.Conflicts[0].State)
 	}
 	b.tool.table = t
-	return nil
+	b.tool.start, err = parse.NewCourse(b.tool.grammar, t)
+	return err
 }
